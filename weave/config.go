@@ -1,6 +1,9 @@
 package weave
 
-import "weave/api"
+import (
+	"weave/api"
+	"weave/codec"
+)
 
 // right tells whether a configuration is RIGHT. K is asked ahead of M, whose bound hangs on it.
 func right(c api.Config) bool {
@@ -11,4 +14,12 @@ func right(c api.Config) bool {
 
 func within(n int, least int, most int) bool {
 	return least <= n && n <= most
+}
+
+// codecOf makes the codec that either end of a stream has.
+func codecOf(c api.Config) (*codec.Codec, api.Errno) {
+	if !right(c) {
+		return nil, api.ErrArg
+	}
+	return codec.New(c.K, c.M, c.Workers, c.Room)
 }

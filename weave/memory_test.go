@@ -2,6 +2,7 @@ package weave_test
 
 import (
 	"bytes"
+	"math/rand"
 	"runtime"
 	"sync"
 	"testing"
@@ -156,12 +157,163 @@ func TestSendersAtTheSameTime(t *testing.T) {
 	}
 }
 
+func TestTakeLeavesTheBytesAlone(t *testing.T) {
+	c := changed(func(c *api.Config) { c.K, c.M, c.Size, c.Workers = 3, 2, 4, 2 })
+	l := blocks(c, "abcdefghijkl", "mnopq")
+	r := receives(t, c)
+	take := func(b []byte, want ...api.Block) {
+		t.Helper()
+		whole, piece := inside(b)
+		was := bytes.Clone(whole)
+		out, e := r.asked.Take(piece)
+		if !bytes.Equal(whole, was) {
+			t.Fatalf("P1: Take wrote into the bytes, or behind them: %q", whole)
+		}
+		overwrite(whole, 99)
+		if !sameBlocks(out, want) {
+			t.Fatalf("P1: what comes of Take hangs on bytes that were handed in: %v, %d, want %v", out, e, want)
+		}
+	}
+	for i := range 5 {
+		take(l[1][i])
+		take(l[1][i])
+	}
+	take(nil)
+	take(l[0][4])
+	take(lone(c, 0, 3, 2))
+	take(l[0][0][1:])
+	take(l[0][3])
+	take(l[0][1], given(0, "abcdefghijkl", "mnopq")...)
+	take(l[0][1])
+}
+
+// The payloads of one answer, and of a later one, share nothing with each other or with what the receiver keeps.
+func TestPayloadsShareNothing(t *testing.T) {
+	c := changed(func(c *api.Config) { c.K, c.M, c.Window = 2, 2, 4 })
+	payloads := []string{"abc", "", "defg", "h", "ijk", "lm"}
+	l := blocks(c, payloads...)
+	for _, used := range [][2]int{{0, 1}, {1, 0}, {0, 3}, {2, 1}, {3, 2}} {
+		r := receives(t, c)
+		for _, block := range []int{1, 2} {
+			r.takes(l[block][used[0]])
+			r.takes(l[block][used[1]])
+		}
+		r.takes(l[3][used[0]])
+		r.takes(l[0][used[0]])
+		out, _ := r.asked.Take(l[0][used[1]])
+		for i := range out {
+			if string(out[i].Payload) != payloads[i] {
+				t.Fatalf("P1: payload %d is %q, want %q", i, out[i].Payload, payloads[i])
+			}
+			overwrite(out[i].Payload, 99)
+			_ = append(out[i].Payload, "more than that"...)
+		}
+		overwriteBlocks(out)
+		if len(out) != 3 || !equal(l[3], sent(c, 3, []byte("h"))) {
+			t.Fatalf("P1: %d payloads were given out; what was handed in is %q", len(out), l[3])
+		}
+		out, _ = r.asked.Take(l[3][used[1]])
+		if !sameBlocks(out, given(3, "h")) {
+			t.Fatalf("P1: what comes out later hangs on what the caller wrote: %v", out)
+		}
+		overwriteBlocks(out)
+		r.asked.Take(l[5][used[0]])
+		r.asked.Take(l[5][used[1]])
+		r.asked.Tick()
+		if out = r.asked.Tick(); !sameBlocks(out, given(5, "lm")) {
+			t.Fatalf("P1: what a Tick gives out hangs on what the caller wrote: %v", out)
+		}
+	}
+}
+
+// overwriteBlocks writes into a list of blocks, into their payloads, and into the spare room of all of these.
+func overwriteBlocks(l []api.Block) {
+	l = l[:cap(l)]
+	for i := range l {
+		overwrite(l[i].Payload, 98)
+		l[i] = api.Block{Number: -1}
+	}
+}
+
+// What was given out is still there when the next ones have been.
+func TestWhatWasGivenOutStays(t *testing.T) {
+	c := changed(func(c *api.Config) { c.Patience = 1 })
+	r := receives(t, c)
+	var kept []api.Block
+	var payloads []string
+	for block := range 20 {
+		payload := string([]byte{byte(block), 'a', 'b', byte(block)}[:block%5])
+		payloads = append(payloads, payload)
+		l := sent(c, block, []byte(payload))
+		r.asked.Take(l[block%3])
+		out, _ := r.asked.Take(l[(block+1)%3])
+		kept = append(kept, out...)
+	}
+	if !sameBlocks(kept, given(0, payloads...)) {
+		t.Errorf("P1: what was given out is %v now", kept)
+	}
+}
+
+func TestReceiversAreApart(t *testing.T) {
+	random := rand.New(rand.NewSource(20))
+	c := api.Config{K: 2, M: 2, Size: 3, Window: 3, Patience: 3, Workers: 2, Room: 1}
+	receivers := make([]*receiver, 6)
+	for i := range receivers {
+		receivers[i] = receives(t, c)
+	}
+	for range 3000 {
+		r := receivers[random.Intn(6)]
+		if random.Intn(6) == 0 {
+			r.tick()
+			continue
+		}
+		base, _ := r.asked.Base()
+		r.take(near(random, c, base))
+	}
+}
+
+func TestReceiversAtTheSameTime(t *testing.T) {
+	c := changed(func(c *api.Config) { c.K, c.M, c.Size, c.Workers, c.Room = 3, 2, 40, 4, 2 })
+	answers := make([][]api.Block, 6)
+	var group sync.WaitGroup
+	for i := range answers {
+		r := receives(t, c)
+		group.Go(func() {
+			for block := range 20 {
+				for _, b := range sent(c, block, []byte{byte(i), byte(block)})[i%3:] {
+					out, _ := r.asked.Take(b)
+					answers[i] = append(answers[i], out...)
+				}
+				r.asked.Tick()
+			}
+		})
+	}
+	group.Wait()
+	for i, l := range answers {
+		if len(l) != 20 {
+			t.Fatalf("P1: receiver %d gave %d blocks out", i, len(l))
+		}
+		for block, b := range l {
+			if b.Number != block || !bytes.Equal(b.Payload, []byte{byte(i), byte(block)}) {
+				t.Errorf("P1: receiver %d hangs on the others: block %d is %v", i, block, b)
+			}
+		}
+	}
+}
+
 func TestNoWorkerIsLeft(t *testing.T) {
 	c := changed(func(c *api.Config) { c.Size, c.Workers = 40, api.MaxWorkers })
-	s := sender(t, c)
+	s, r := sender(t, c), receives(t, c)
 	before := runtime.NumGoroutine()
 	for range 50 {
-		s.Send([]byte("abc"))
+		l, _ := s.Send([]byte("abc"))
+		for _, b := range l[1:] {
+			r.asked.Take(b)
+		}
+		r.asked.Tick()
+	}
+	if base, _ := r.asked.Base(); base != 50 {
+		t.Fatalf("P12: the base is %d behind 50 blocks", base)
 	}
 	// A goroutine that has called Done may need a moment more until it is not counted.
 	for range 1000 {

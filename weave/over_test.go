@@ -50,3 +50,89 @@ func TestAnErrorSendsNoBlock(t *testing.T) {
 		t.Errorf("P11, P1: Send of the last block behind an error = %q, %d", l, e)
 	}
 }
+
+// begun is a receiver whose base is set, for the same reason, and the datagrams of the last three blocks there are.
+func begun(t *testing.T, c api.Config, base int) (*Receiver, [][][]byte) {
+	t.Helper()
+	r, _ := NewReceiver(c)
+	r.base = base
+	s, _ := NewSender(c)
+	s.next = api.MaxBlock - 2
+	var l [][][]byte
+	for _, payload := range []string{"abc", "", "defg"} {
+		block, _ := s.Send([]byte(payload))
+		l = append(l, block)
+	}
+	return r, l
+}
+
+func takes(t *testing.T, r *Receiver, b []byte, numbers int, e api.Errno, base int, open int) {
+	t.Helper()
+	l, f := r.Take(b)
+	if len(l) != numbers || f != e {
+		t.Fatalf("P12: Take = %v, %d, want %d blocks, %d", l, f, numbers, e)
+	}
+	if a, n := r.Base(); a != base || n != open {
+		t.Fatalf("P14: Base = %d, %d, want %d, %d", a, n, base, open)
+	}
+}
+
+// Behind the last block the window reaches further than there are blocks, and at last there is none to come.
+func TestTakeOfTheLastBlocks(t *testing.T) {
+	c := api.Config{K: 2, M: 1, Size: 2, Window: 3, Patience: 2, Workers: 1, Room: 1}
+	end := api.MaxBlock + 1
+	r, l := begun(t, c, end-4)
+	takes(t, r, l[2][0], 0, api.ErrEarly, end-4, 0)
+	r, l = begun(t, c, end-3)
+	takes(t, r, l[2][0], 0, api.OK, end-3, 1)
+	takes(t, r, l[2][2], 0, api.OK, end-3, 1)
+	takes(t, r, l[1][0], 0, api.OK, end-3, 2)
+	takes(t, r, l[0][2], 0, api.OK, end-3, 3)
+	takes(t, r, l[0][1], 1, api.OK, end-2, 2)
+	takes(t, r, l[0][0], 0, api.ErrLate, end-2, 2)
+	takes(t, r, l[1][1], 2, api.OK, end, 0)
+	for _, block := range l {
+		for _, b := range block {
+			takes(t, r, b, 0, api.ErrLate, end, 0)
+		}
+	}
+	for range 5 {
+		if out := r.Tick(); len(out) != 0 {
+			t.Fatalf("P13: Tick behind the last block = %v", out)
+		}
+	}
+	if base, open := r.Base(); base != end || open != 0 {
+		t.Errorf("P14: Base behind the last block = %d, %d", base, open)
+	}
+}
+
+func TestTickAtTheLastBlocks(t *testing.T) {
+	c := api.Config{K: 2, M: 1, Size: 2, Window: 16, Patience: 1, Workers: 1, Room: 1}
+	end := api.MaxBlock + 1
+	r, l := begun(t, c, end-2)
+	takes(t, r, l[2][1], 0, api.OK, end-2, 1)
+	for i := range 4 {
+		if out := r.Tick(); len(out) != 0 {
+			t.Fatalf("P13: Tick = %v", out)
+		}
+		if base, open := r.Base(); base != min(end-1+i, end) || open != max(0, 1-i) {
+			t.Fatalf("P14: Base behind %d ticks = %d, %d", i+1, base, open)
+		}
+	}
+	takes(t, r, l[2][0], 0, api.ErrLate, end, 0)
+}
+
+// A receiver keeps a payload of a whole block, and no shards, since only an index and a Length can be asked of it.
+func TestAWholeBlockKeepsNoShards(t *testing.T) {
+	c := api.Config{K: 2, M: 2, Size: 2, Window: 2, Patience: 2, Workers: 1, Room: 1}
+	r, l := begun(t, c, api.MaxBlock-3)
+	for _, b := range l[0][:3] {
+		r.Take(b)
+	}
+	if a := r.open[api.MaxBlock-2]; a == nil || a.shards != nil || string(a.payload) != "abc" {
+		t.Errorf("a whole block is kept as %+v", a)
+	}
+	if base, open := r.Base(); base != api.MaxBlock-3 || open != 1 || len(r.open) != 1 {
+		t.Errorf("P14: Base = %d, %d", base, open)
+	}
+}
